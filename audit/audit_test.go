@@ -187,6 +187,10 @@ func TestFleetAndLast(t *testing.T) {
 			t.Error(n, fleet)
 		}
 	}
+	// A deploy ahead of its expand's change isn't right, and changes nothing.
+	if fleet := Fleet(c, start, slices.Delete(forward(p), 3, 4)); !slices.Equal(fleet, []complex128{6i, 1}) {
+		t.Error(fleet)
+	}
 	Fleet(c, start, nil)[0] = 9
 	if start[0] != 6i {
 		t.Error(start)

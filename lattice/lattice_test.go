@@ -97,6 +97,9 @@ func TestWaysAtTheirLimit(t *testing.T) {
 	if ways, e := Ways(chains(31, 31)); e != api.OK || ways != 465428353255261088 {
 		t.Error(ways, e)
 	}
+	if ways, e := Ways(chains(31, 32)); e != api.OK || ways != 916312070471295267 {
+		t.Error(ways, e)
+	}
 	if ways, e := Ways(chains(32, 32)); e != api.ErrBig || ways != 0 {
 		t.Error(ways, e)
 	}
@@ -114,6 +117,47 @@ func TestWaysAtTheirLimit(t *testing.T) {
 	}
 	if all, e := All(chains(15, 15, 15, 16)); e != api.ErrBig || all != nil {
 		t.Error(len(all), e)
+	}
+}
+
+// row is ten blocks of six nodes, one behind the other, each with 2^6 ways of its own, and some nodes behind them all.
+func row(more int) digraph.Graph {
+	g := digraph.Graph{N: 60 + more}
+	for at := 0; at < 60; at += 6 {
+		for _, e := range [][2]int{{0, 2}, {0, 3}, {0, 4}, {0, 5}, {1, 2}, {1, 3}} {
+			g.Edges = append(g.Edges, [2]int{at + e[0], at + e[1]})
+		}
+		for first := at; first < at+6; first++ {
+			for second := at + 6; second < min(at+12, g.N); second++ {
+				g.Edges = append(g.Edges, [2]int{first, second})
+			}
+		}
+	}
+	return g
+}
+
+func TestJustSoManyWays(t *testing.T) {
+	for more, want := range []int{1 << 60, 1 << 60, 0} {
+		wantE := api.OK
+		if want == 0 {
+			wantE = api.ErrBig
+		}
+		if ways, e := Ways(row(more)); ways != want || e != wantE {
+			t.Error(more, ways, e)
+		}
+	}
+}
+
+func TestOneSetTooMany(t *testing.T) {
+	// Sixteen nodes side by side, and one behind them all: 2^16 + 1 closed sets.
+	g := digraph.Graph{N: 17}
+	for i := range 16 {
+		g.Edges = append(g.Edges, [2]int{i, 16})
+	}
+	all, e := All(g)
+	ways, e2 := Ways(g)
+	if all != nil || e != api.ErrBig || ways != 0 || e2 != api.ErrBig {
+		t.Error(len(all), e, ways, e2)
 	}
 }
 

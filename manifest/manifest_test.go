@@ -83,13 +83,6 @@ func TestParseTellsTheCataloguesErrors(t *testing.T) {
 	}
 }
 
-func TestANeedIsOfTheFirstOfItsName(t *testing.T) {
-	// Were the need of the second service a, it would be of a service of its own name, and refused ahead of the name.
-	if _, line, e := Parse("service b\nrelease 1.0.0 level 0\nservice b\nrelease 1.0.0 level 0\nneed b of *\n"); e != api.ErrTwice || line != 3 {
-		t.Error(line, e)
-	}
-}
-
 // P8.2
 func TestText(t *testing.T) {
 	c, _, _ := Parse(example)

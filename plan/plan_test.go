@@ -79,6 +79,26 @@ func TestMake(t *testing.T) {
 	}
 }
 
+func TestBeforeStandsInItsOrder(t *testing.T) {
+	c := catalog.Catalog{Services: []catalog.Service{service("a", 0, 1), service("b", 0, 1)}}
+	c.Services[1].Releases[0].Needs = []catalog.Need{{Service: 0, Range: span(t, "=1.0.0")}}
+	p, e := Make(c, []int{0, 0}, []int{1, 1})
+	if e != api.OK || !slices.Equal(p.Before, [][2]int{{0, 1}, {1, 2}, {3, 4}, {4, 1}, {4, 5}}) {
+		t.Error(p, e)
+	}
+}
+
+func TestAPlanIsNewMemory(t *testing.T) {
+	from, to := []int{0, 0, 0}, []int{1, 1, 0}
+	p, _ := Make(sample(t), from, to)
+	p.From[0], p.To[0] = 9, 9
+	g := p.Graph()
+	g.Edges[0] = [2]int{9, 9}
+	if from[0] != 0 || to[0] != 1 || p.Before[0] != [2]int{0, 1} {
+		t.Error(from, to, p)
+	}
+}
+
 // P10.2
 func TestCheck(t *testing.T) {
 	c := sample(t)

@@ -172,6 +172,19 @@ func TestTakeSharesNothing(t *testing.T) {
 	}
 }
 
+func TestUndoneLeavesTheStateAhead(t *testing.T) {
+	s := behind(t, append(slices.Clone(firsts), [2]int{abort, 0})...)
+	if _, e := s.Take(Record{Kind: undone, Step: 1}); e != api.OK {
+		t.Error(e)
+	}
+	want(t, s, 1, 2, nil, []int{3, 0, 1})
+	s = behind(t, [2]int{intent, 0}, [2]int{intent, 3}, [2]int{abort, 0})
+	if _, e := s.Take(Record{Kind: undone, Step: 3}); e != api.OK {
+		t.Error(e)
+	}
+	want(t, s, 1, 2, []int{0, 3}, nil)
+}
+
 // P17.2
 func TestWhatAStateTells(t *testing.T) {
 	for i, k := range []struct {

@@ -94,6 +94,14 @@ func TestOpenADockWithoutAWholeFile(t *testing.T) {
 	}
 }
 
+func TestOpenOfAWholeLogOnlySyncs(t *testing.T) {
+	d := dock.New(100)
+	open(t, d).Append([]byte("a"))
+	d.Arm(1)
+	l := open(t, d)
+	wantE(t, l.Sync(), api.ErrDown)
+}
+
 func TestOpenAnswersTheDocksFirstError(t *testing.T) {
 	lay := func() *dock.Dock {
 		d := dock.New(1000)
